@@ -1,0 +1,52 @@
+package tests
+
+import (
+	"strings"
+	"testing"
+	"unsafe"
+
+	"loop.example/g01371/impl"
+)
+
+// sharesMemory reports whether two texts have a byte of memory in common.
+func sharesMemory(x string, y string) bool {
+	if x == "" || y == "" {
+		return false
+	}
+	from := uintptr(unsafe.Pointer(unsafe.StringData(x)))
+	other := uintptr(unsafe.Pointer(unsafe.StringData(y)))
+	return from < other+uintptr(len(y)) && other < from+uintptr(len(x))
+}
+
+// Words that are results are new memory, also where they are equal to an argument or to a part of it.
+func TestWordsAreNewMemory(t *testing.T) {
+	w := strings.Clone("abaababaabcabc")
+	u := strings.Clone("babaabcabc")
+	var words []string
+	keep := func(word string, code int64) {
+		if code != impl.ErrNone {
+			t.Fatalf("word %d: code %d", len(words), code)
+		}
+		words = append(words, word)
+	}
+	keep(impl.ProductOf(w, ""))
+	keep(impl.ProductOf("", u))
+	keep(impl.PowerOf(w, 1))
+	keep(impl.ReverseOf(w))
+	keep(impl.TurnWord(w, 0))
+	keep(impl.TurnWord(w, int64(len(w))))
+	keep(impl.RenameLetters(w, []int64{0, 1, 2, 3, 4}))
+	keep(impl.FactorAt(w, 0, int64(len(w))))
+	keep(impl.FactorAt(w, 2, 5))
+	keep(impl.CommonBeginning(w, w))
+	keep(impl.CommonEnd(w, u))
+	for _, m := range []int64{4, int64(len(w))} {
+		factors, _ := impl.FactorsOf(w, m)
+		words = append(words, factors...)
+	}
+	for i, word := range words {
+		if sharesMemory(word, w) || sharesMemory(word, u) {
+			t.Errorf("word %d, %q, is memory of an argument", i, word)
+		}
+	}
+}

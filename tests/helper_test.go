@@ -50,6 +50,13 @@ func wantWord(t *testing.T, call string, got string, code int64, want string, wa
 	}
 }
 
+func wantWordAndNumber(t *testing.T, call string, got string, n int64, code int64, want string, wantNumber int64, wantCode int64) {
+	t.Helper()
+	if got != want || n != wantNumber || code != wantCode {
+		t.Errorf("%s = %q, %d, %d, not %q, %d, %d", call, got, n, code, want, wantNumber, wantCode)
+	}
+}
+
 func wantNumber(t *testing.T, call string, got int64, code int64, want int64, wantCode int64) {
 	t.Helper()
 	if got != want || code != wantCode {

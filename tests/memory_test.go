@@ -18,6 +18,29 @@ func sharesMemory(x string, y string) bool {
 	return from < other+uintptr(len(y)) && other < from+uintptr(len(x))
 }
 
+// Words of chapter 2 that are results are new memory, and no two Lyndon parts have memory in common.
+func TestWordsOfPeriodsAreNewMemory(t *testing.T) {
+	for _, w := range []string{"abaababaabcabc", "aab", "baabab", "aaaa", "abab", "a", "edcba"} {
+		w = strings.Clone(w)
+		root, _, _ := impl.RootOf(w)
+		least, _, _ := impl.LeastTurned(w)
+		unbordered, _ := impl.LongestUnbordered(w)
+		parts, _ := impl.LyndonParts(w)
+		for _, word := range append([]string{root, least, unbordered}, parts...) {
+			if word == "" || sharesMemory(word, w) {
+				t.Errorf("%q is memory of %q", word, w)
+			}
+		}
+		for i, part := range parts {
+			for _, other := range parts[:i] {
+				if sharesMemory(part, other) {
+					t.Errorf("parts of %q, %q and %q, have memory in common", w, part, other)
+				}
+			}
+		}
+	}
+}
+
 // Words that are results are new memory, also where they are equal to an argument or to a part of it.
 func TestWordsAreNewMemory(t *testing.T) {
 	w := strings.Clone("abaababaabcabc")

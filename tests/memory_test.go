@@ -41,6 +41,27 @@ func TestWordsOfPeriodsAreNewMemory(t *testing.T) {
 	}
 }
 
+// Squares are new memory, also a word that is one itself, and no two have memory in common.
+func TestSquaresAreNewMemory(t *testing.T) {
+	for _, w := range []string{"aa", "abaababaabaab", "aaaaaa", "abab", "abcabcabc"} {
+		w = strings.Clone(w)
+		squares, code := impl.SquaresOf(w)
+		if code != impl.ErrNone || len(squares) == 0 {
+			t.Fatalf("SquaresOf(%q) = %v, %d", w, squares, code)
+		}
+		for i, square := range squares {
+			if sharesMemory(square, w) {
+				t.Errorf("%q is memory of %q", square, w)
+			}
+			for _, other := range squares[:i] {
+				if sharesMemory(square, other) {
+					t.Errorf("squares of %q, %q and %q, have memory in common", w, square, other)
+				}
+			}
+		}
+	}
+}
+
 // Words that are results are new memory, also where they are equal to an argument or to a part of it.
 func TestWordsAreNewMemory(t *testing.T) {
 	w := strings.Clone("abaababaabcabc")

@@ -49,15 +49,39 @@ func TestSquaresAreNewMemory(t *testing.T) {
 		if code != impl.ErrNone || len(squares) == 0 {
 			t.Fatalf("SquaresOf(%q) = %v, %d", w, squares, code)
 		}
-		for i, square := range squares {
-			if sharesMemory(square, w) {
-				t.Errorf("%q is memory of %q", square, w)
+		wordsAreNew(t, w, squares)
+	}
+}
+
+// wordsAreNew tests that the words of a result are not memory of w, from which they come, and have none in common.
+func wordsAreNew(t *testing.T, w string, words []string) {
+	t.Helper()
+	for i, word := range words {
+		if sharesMemory(word, w) {
+			t.Errorf("%q is memory of %q", word, w)
+		}
+		for _, other := range words[:i] {
+			if sharesMemory(word, other) {
+				t.Errorf("words of %q, %q and %q, have memory in common", w, word, other)
 			}
-			for _, other := range squares[:i] {
-				if sharesMemory(square, other) {
-					t.Errorf("squares of %q, %q and %q, have memory in common", w, square, other)
-				}
+		}
+	}
+}
+
+// Palindromes, parts and closures are new memory, also of a word that is a palindrome itself.
+func TestPalindromesAreNewMemory(t *testing.T) {
+	for _, w := range []string{"abaab", "aabaa", "aaaa", "abca", "a", "ebe", "abaababaabaab"} {
+		w = strings.Clone(w)
+		palindromes, _ := impl.PalindromesOf(w)
+		parts, _ := impl.FewestParts(w)
+		longest, _, _ := impl.LongestPalindrome(w)
+		closure, _ := impl.ClosureOf(w)
+		directed, _ := impl.DirectedWord(w[:min(len(w), 6)])
+		for _, words := range [][]string{palindromes, parts, {longest}, {closure}, {directed}} {
+			if len(words) == 0 || words[0] == "" {
+				t.Errorf("%q: a result is empty: %v", w, words)
 			}
+			wordsAreNew(t, w, words)
 		}
 	}
 }

@@ -86,6 +86,25 @@ func TestPalindromesAreNewMemory(t *testing.T) {
 	}
 }
 
+// Special factors, return words and common factors are new memory, also where a factor is the word itself.
+func TestFactorsAreNewMemory(t *testing.T) {
+	for _, w := range []string{"abaab", "bbabaa", "abaababaabaab", "aabaab", "ebebeeb"} {
+		w = strings.Clone(w)
+		right, _ := impl.RightSpecial(w, 1)
+		left, _ := impl.LeftSpecial(w, 1)
+		both, _ := impl.Bispecial(w, 1)
+		returned, _ := impl.ReturnWords(w, w[:1])
+		whole, _ := impl.LongestCommonFactor(w, w)
+		part, _ := impl.LongestCommonFactor(w, w[1:3])
+		for _, words := range [][]string{right, left, both, returned, {whole}, {part}} {
+			if len(words) == 0 || words[0] == "" {
+				t.Errorf("%q: a result is empty: %v", w, words)
+			}
+			wordsAreNew(t, w, words)
+		}
+	}
+}
+
 // Words that are results are new memory, also where they are equal to an argument or to a part of it.
 func TestWordsAreNewMemory(t *testing.T) {
 	w := strings.Clone("abaababaabcabc")

@@ -105,6 +105,34 @@ func TestFactorsAreNewMemory(t *testing.T) {
 	}
 }
 
+// Images, grown words and texts are new memory, also where they are equal to an argument or to an image.
+func TestMorphismsAreNewMemory(t *testing.T) {
+	// Clones, as equal constants of a program may be the same memory.
+	w := strings.Clone("aaaaaaaaaa")
+	one := impl.Morphism{Images: []string{strings.Clone("aaa")}}
+	same := impl.Morphism{Images: []string{strings.Clone("a"), strings.Clone("b")}}
+	text := strings.Clone("abbbb,ba,ca,,ddd")
+	image, _ := impl.ImageOf(same, w)
+	iterate, _ := impl.IterateOf(one, w, 0)
+	composed, _ := impl.ComposeMorphisms(same, impl.Morphism{Images: []string{w, w}})
+	grown, _ := impl.GrownWord(one, 0, 3)
+	beginning, _ := impl.GrownWord(one, 0, 2)
+	found, _ := impl.WordFromImage(same, w)
+	only, _ := impl.MorphismText(one)
+	parsed, code := impl.ParseMorphism(text)
+	if code != impl.ErrNone {
+		t.Fatalf("ParseMorphism(%q): code %d", text, code)
+	}
+	words := append([]string{image, iterate, grown, beginning, found, only}, composed.Images...)
+	words = append(words, parsed.Images...)
+	for _, argument := range append([]string{w, text, one.Images[0]}, same.Images...) {
+		wordsAreNew(t, argument, words)
+	}
+	if len(words) != 13 || image != w || iterate != w || found != w || only != "aaa" {
+		t.Errorf("the words are %q", words)
+	}
+}
+
 // Words that are results are new memory, also where they are equal to an argument or to a part of it.
 func TestWordsAreNewMemory(t *testing.T) {
 	w := strings.Clone("abaababaabcabc")

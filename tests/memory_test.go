@@ -133,6 +133,22 @@ func TestMorphismsAreNewMemory(t *testing.T) {
 	}
 }
 
+// Sorted words are new memory, also of a word that is sorted, and no two words with a vector have memory in common.
+func TestWordsByLettersAreNewMemory(t *testing.T) {
+	for _, w := range []string{"aabcc", "cabac", "aaaa", "ab", "ba", "e"} {
+		w = strings.Clone(w)
+		sorted, _ := impl.SortedWord(w)
+		counts, _ := impl.CountLetters(w)
+		words, _ := impl.WordsWith(counts)
+		for _, list := range [][]string{words, {sorted}} {
+			if len(list) == 0 || list[0] == "" {
+				t.Errorf("%q: a result is empty: %q", w, list)
+			}
+			wordsAreNew(t, w, list)
+		}
+	}
+}
+
 // Words that are results are new memory, also where they are equal to an argument or to a part of it.
 func TestWordsAreNewMemory(t *testing.T) {
 	w := strings.Clone("abaababaabcabc")

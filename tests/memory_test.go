@@ -1,6 +1,7 @@
 package tests
 
 import (
+	"slices"
 	"strings"
 	"testing"
 	"unsafe"
@@ -146,6 +147,36 @@ func TestWordsByLettersAreNewMemory(t *testing.T) {
 			}
 			wordsAreNew(t, w, list)
 		}
+	}
+}
+
+// Cuts are new memory, and words of slopes, of lists and of paths, and balanced words, have none in common.
+func TestWordsOfSlopesAreNewMemory(t *testing.T) {
+	for _, w := range []string{"aabab", "ab", "abb", "aabaabab", "aaaaaaaab"} {
+		w = strings.Clone(w)
+		u, v, _ := impl.CutOf(w)
+		p, q, _ := impl.SlopeOfWord(w)
+		same, _ := impl.WordOfSlope(p, q)
+		stepped, _ := impl.SteppedWord(q, p+q, 0, p+q)
+		if u+v != w || same != w || stepped != w {
+			t.Errorf("%q: the words are %q, %q, %q and %q", w, u, v, same, stepped)
+		}
+		wordsAreNew(t, w, []string{u, v, same, stepped})
+	}
+	var words []string
+	for range 2 {
+		for _, list := range [][]int64{nil, {0}, {1}, {1, 1, 1}} {
+			standard, _ := impl.StandardWord(list)
+			words = append(words, standard)
+		}
+		central, _ := impl.CentralWord(5, 3)
+		path, _ := impl.PathOf(5, 3)
+		balanced, _ := impl.BalancedWords(4)
+		words = append(append(words, central, path), balanced...)
+	}
+	wordsAreNew(t, strings.Clone("a"), words)
+	if len(words) != 40 || slices.Contains(words, "") {
+		t.Errorf("the words are %q", words)
 	}
 }
 

@@ -180,6 +180,36 @@ func TestWordsOfSlopesAreNewMemory(t *testing.T) {
 	}
 }
 
+// Covers, seeds, border words, pairs and grown words are new memory, also where they are equal to an argument.
+func TestCoversAreNewMemory(t *testing.T) {
+	for _, w := range []string{"abaababaabaab", "abaaba", "aaaa", "ababab", "aabaabaab", "bbabb"} {
+		w = strings.Clone(w)
+		covers, _ := impl.CoversOf(w)
+		least, _ := impl.LeastCover(w)
+		whole, _ := impl.SeedsOf(w, int64(len(w)))
+		seeds, _ := impl.SeedsOf(w, int64(len(w)-1))
+		seed, _ := impl.LeastSeed(w)
+		border, _, _ := impl.BestBorder(w)
+		same, _ := impl.GrowByCover(w, nil)
+		longer, _ := impl.GrowByCover(w, []int64{0})
+		if len(covers) == 0 || least == "" || len(whole) != 1 || seed == "" || border == "" || same != w || longer != w+w {
+			t.Errorf("%q: a result is empty, or not the word", w)
+		}
+		for _, words := range [][]string{covers, whole, seeds, {least, seed, border, same, longer}} {
+			wordsAreNew(t, w, words)
+		}
+	}
+	// A least cover and a least seed that are the word, and pairs that are most of it.
+	w := strings.Clone("aaab")
+	least, _ := impl.LeastCover(w)
+	seed, _ := impl.LeastSeed(w)
+	two, _ := impl.FirstTwo(w, 3)
+	if least != w || seed != w || len(two) != 2 {
+		t.Errorf("%q: the words are %q, %q and %q", w, least, seed, two)
+	}
+	wordsAreNew(t, w, append(two, least, seed))
+}
+
 // Words that are results are new memory, also where they are equal to an argument or to a part of it.
 func TestWordsAreNewMemory(t *testing.T) {
 	w := strings.Clone("abaababaabcabc")

@@ -210,6 +210,21 @@ func TestCoversAreNewMemory(t *testing.T) {
 	wordsAreNew(t, w, append(two, least, seed))
 }
 
+// Values of patterns are new memory, also where they are the word or a single letter, and no two have memory in common.
+func TestValuesOfPatternsAreNewMemory(t *testing.T) {
+	for _, c := range []struct{ w, p string }{
+		{"abaab", "ABA"}, {"abcabc", "CBCB"}, {"aaaaaaaa", "ABACABA"}, {"eabcabc", "AA"}, {"aa", "AB"}, {"a", "C"}, {"abcdabcd", "CABCAB"},
+	} {
+		// A string that is made from a single byte may be memory that other ones have, too.
+		w := string([]byte(c.w))
+		_, values, code := impl.FirstPlace(w, c.p)
+		if code != impl.ErrNone || len(values) == 0 || values[0] == "" {
+			t.Errorf("FirstPlace(%q, %q): %q, %d", w, c.p, values, code)
+		}
+		wordsAreNew(t, w, values)
+	}
+}
+
 // Words that are results are new memory, also where they are equal to an argument or to a part of it.
 func TestWordsAreNewMemory(t *testing.T) {
 	w := strings.Clone("abaababaabcabc")

@@ -225,6 +225,25 @@ func TestValuesOfPatternsAreNewMemory(t *testing.T) {
 	}
 }
 
+// The parts of desks and the outputs are new memory, also where a line changes nothing, or is a word or the output itself.
+func TestDesksAreNewMemory(t *testing.T) {
+	lines := []string{"show", "word cab", "word abaab", "word a", "add ", "reverse", "turn 0", "cut 0 5", "image", "pattern C", "pattern AA", "morphism a", "morphism b,a",
+		"look", "see", "parts", "place", "none", "ok", "yes", "error", "5", "0", "fly", "reset"}
+	for _, constant := range lines {
+		// The line is tried as a constant, too: equal constants of a program may be the same memory.
+		for _, line := range []string{constant, strings.Clone(constant)} {
+			d := impl.Desk{Word: strings.Clone("abaab"), Pattern: strings.Clone("AA"), Morphism: impl.Morphism{Images: []string{"ab", strings.Clone("a")}}}
+			after, output := impl.RunLine(d, line)
+			results := append([]string{after.Word, after.Pattern, output}, after.Morphism.Images...)
+			for _, argument := range append([]string{d.Word, d.Pattern, line}, d.Morphism.Images...) {
+				wordsAreNew(t, argument, results)
+			}
+			last, _ := impl.DeskAfter(line)
+			wordsAreNew(t, line, append([]string{last.Word, last.Pattern, impl.Console(line)}, last.Morphism.Images...))
+		}
+	}
+}
+
 // Words that are results are new memory, also where they are equal to an argument or to a part of it.
 func TestWordsAreNewMemory(t *testing.T) {
 	w := strings.Clone("abaababaabcabc")
